@@ -190,7 +190,7 @@ func read(t *testing.T, line string) api.Bar {
 
 // P14.2: lines with all short words instead of one of theirs.
 func TestAllWords(t *testing.T) {
-	const bytes = "09171a_- +.\n\t"
+	const bytes = "0917a_- +.\n\t"
 	var words []string
 	for longest := []string{""}; len(longest[0]) < 4; {
 		var next []string
